@@ -4,6 +4,8 @@ import (
 	"fmt"
 	"strings"
 	"testing"
+
+	"loop.example/g01143/impl"
 )
 
 // same fails the test unless the results, written one behind the other with their texts quoted, are what is wanted.
@@ -12,7 +14,7 @@ func same(t *testing.T, name, want string, results ...any) {
 	var parts []string
 	for _, r := range results {
 		switch r.(type) {
-		case string, []string, [][]string:
+		case string, []string, [][]string, impl.Equation, []impl.Equation:
 			parts = append(parts, fmt.Sprintf("%q", r))
 		default:
 			parts = append(parts, fmt.Sprint(r))
@@ -52,4 +54,51 @@ func noWords() []string {
 func noTerms() []string {
 	list := []string{"e", "A", "x", "V", " ", "ab ", "a b", "ab\n", "a\x00", "\xff", "é", "a=b", "0", "`", "aeb"}
 	return append(list, strings.Repeat("aX", 31), strings.Repeat("X", 1000000))
+}
+
+// spoil overwrites all slices of results, with their unused capacity.
+func spoil(results []any) {
+	for _, r := range results {
+		switch r := r.(type) {
+		case []int64:
+			for i := range r[:cap(r)] {
+				r[:cap(r)][i] = -77
+			}
+		case []string:
+			for i := range r[:cap(r)] {
+				r[:cap(r)][i] = "spoilt"
+			}
+		case []impl.Equation:
+			for i := range r[:cap(r)] {
+				r[:cap(r)][i] = impl.Equation{Left: "spoilt", Right: "spoilt"}
+			}
+		case [][]string:
+			for _, l := range r {
+				spoil([]any{l})
+			}
+			clear(r[:cap(r)])
+		case [][]int64:
+			for _, l := range r {
+				spoil([]any{l})
+			}
+			clear(r[:cap(r)])
+		}
+	}
+}
+
+// checkRepeated makes a call twice, spoiling the first results.
+func checkRepeated(t *testing.T, name string, call func() []any) {
+	t.Helper()
+	results := call()
+	want := fmt.Sprintf("%#v", results)
+	spoil(results)
+	if got := fmt.Sprintf("%#v", call()); got != want {
+		t.Errorf("%s: %s, and then %s", name, want, got)
+	}
+}
+
+// withSpare returns a copy of a list with some more elements in its capacity, and all of them.
+func withSpare[E any](list []E, more ...E) ([]E, []E) {
+	all := append(append([]E{}, list...), more...)
+	return all[:len(list)], all
 }

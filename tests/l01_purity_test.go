@@ -35,27 +35,6 @@ func oneCalls(t, w string, list []string, numbers []int64) map[string]func() []a
 	}
 }
 
-// spoil overwrites all slices of results, with their unused capacity.
-func spoil(results []any) {
-	for _, r := range results {
-		switch r := r.(type) {
-		case []int64:
-			for i := range r[:cap(r)] {
-				r[:cap(r)][i] = -77
-			}
-		case []string:
-			for i := range r[:cap(r)] {
-				r[:cap(r)][i] = "spoilt"
-			}
-		case [][]string:
-			for _, l := range r {
-				spoil([]any{l})
-			}
-			clear(r[:cap(r)])
-		}
-	}
-}
-
 // TestOnePure calls each function of chapter 1 twice, spoiling the first results, and looks at the arguments with their unused capacity.
 func TestOnePure(t *testing.T) {
 	texts := []string{"", "a", "abab", "aXbYX", "XYZW", "WaXa", "e", strings.Repeat("ab", 30), strings.Repeat("X", 24), strings.Repeat("a", 61)}
@@ -63,18 +42,11 @@ func TestOnePure(t *testing.T) {
 	rows := [][]int64{nil, {3, 2, 1, 0}, {0, 0, 60, 1}, {0, 1, 2, 3, 4}}
 	for i, term := range texts {
 		for _, w := range texts {
-			listBack := append(slices.Clone(lists[i%len(lists)]), "x", "y", "z")
-			rowBack := append(slices.Clone(rows[i%len(rows)]), 91, 92, 93)
-			list := listBack[: len(listBack)-3 : len(listBack)]
-			row := rowBack[: len(rowBack)-3 : len(rowBack)]
+			list, listBack := withSpare(lists[i%len(lists)], "x", "y", "z")
+			row, rowBack := withSpare(rows[i%len(rows)], 91, 92, 93)
 			listWas, rowWas := slices.Clone(listBack), slices.Clone(rowBack)
 			for name, call := range oneCalls(term, w, list, row) {
-				results := call()
-				want := fmt.Sprintf("%q", results)
-				spoil(results)
-				if got := fmt.Sprintf("%q", call()); got != want {
-					t.Errorf("%s of %q, %q: %s, and then %s", name, term, w, want, got)
-				}
+				checkRepeated(t, fmt.Sprintf("%s of %q, %q", name, term, w), call)
 				if !reflect.DeepEqual(listBack, listWas) || !reflect.DeepEqual(rowBack, rowWas) {
 					t.Fatalf("%s of %q, %q changes an argument", name, term, w)
 				}
