@@ -72,6 +72,12 @@ func spoil(results []any) {
 			for i := range r[:cap(r)] {
 				r[:cap(r)][i] = impl.Equation{Left: "spoilt", Right: "spoilt"}
 			}
+		case []impl.Step:
+			for i := range r[:cap(r)] {
+				r[:cap(r)][i] = impl.Step{Unknown: -77, By: "spoilt"}
+			}
+		case impl.StepGraph:
+			spoil([]any{r.Nodes, r.Next})
 		case [][]string:
 			for _, l := range r {
 				spoil([]any{l})
