@@ -76,6 +76,12 @@ func spoil(results []any) {
 			for i := range r[:cap(r)] {
 				r[:cap(r)][i] = impl.Step{Unknown: -77, By: "spoilt"}
 			}
+		case []impl.Powers:
+			for i := range r[:cap(r)] {
+				r[:cap(r)][i] = impl.Powers{Root: "spoilt", Tail: "spoilt", From: -77}
+			}
+		case impl.OneSolutions:
+			spoil([]any{r.Words, r.Families})
 		case impl.StepGraph:
 			spoil([]any{r.Nodes, r.Next})
 		case [][]string:
