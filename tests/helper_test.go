@@ -80,6 +80,13 @@ func spoil(results []any) {
 			for i := range r[:cap(r)] {
 				r[:cap(r)][i] = impl.Powers{Root: "spoilt", Tail: "spoilt", From: -77}
 			}
+		case []impl.Held:
+			for _, h := range r {
+				spoil([]any{h.Maps})
+			}
+			for i := range r[:cap(r)] {
+				r[:cap(r)][i] = impl.Held{Equation: impl.Equation{Left: "spoilt", Right: "spoilt"}}
+			}
 		case impl.OneSolutions:
 			spoil([]any{r.Words, r.Families})
 		case impl.StepGraph:
