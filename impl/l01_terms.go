@@ -258,14 +258,8 @@ func areLengths(lengths []int64) bool {
 	return true
 }
 
-// TermLength returns the length that a term gets.
-func TermLength(t string, lengths []int64) (int64, int64) {
-	if !ValidTerm(t) {
-		return 0, ErrInvalid
-	}
-	if !areLengths(lengths) {
-		return 0, ErrRange
-	}
+// lengthBy returns the length that a valid term gets by values with such lengths.
+func lengthBy(t string, lengths []int64) int64 {
 	sum := int64(0)
 	for _, s := range symbolsOf(t) {
 		switch s := s.(type) {
@@ -275,7 +269,18 @@ func TermLength(t string, lengths []int64) (int64, int64) {
 			sum += lengths[s]
 		}
 	}
-	return sum, OK
+	return sum
+}
+
+// TermLength returns the length that a term gets.
+func TermLength(t string, lengths []int64) (int64, int64) {
+	if !ValidTerm(t) {
+		return 0, ErrInvalid
+	}
+	if !areLengths(lengths) {
+		return 0, ErrRange
+	}
+	return lengthBy(t, lengths), OK
 }
 
 // isUnknown reports whether a text is the name of an unknown.

@@ -87,6 +87,15 @@ func spoil(results []any) {
 			for i := range r[:cap(r)] {
 				r[:cap(r)][i] = impl.Held{Equation: impl.Equation{Left: "spoilt", Right: "spoilt"}}
 			}
+		case []impl.Piece:
+			for i := range r[:cap(r)] {
+				r[:cap(r)][i] = impl.Piece{Word: "spoilt", Fixed: -77, Slope: -77}
+			}
+		case impl.Family:
+			for _, list := range r.Parts {
+				spoil([]any{list})
+			}
+			clear(r.Parts[:cap(r.Parts)])
 		case impl.OneSolutions:
 			spoil([]any{r.Words, r.Families})
 		case impl.StepGraph:
